@@ -17,6 +17,7 @@ func calls() map[string][]string {
 		"tone":   {"api"},
 		"sample": {"api", "tone"},
 		"pack":   {"api"},
+		"inst":   {"api", "tone"},
 	}
 }
 
