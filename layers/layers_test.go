@@ -14,10 +14,11 @@ import (
 // calls are the layers that are built, each with those that its chapter's first paragraph lets it import.
 func calls() map[string][]string {
 	return map[string][]string{
-		"tone":   {"api"},
-		"sample": {"api", "tone"},
-		"pack":   {"api"},
-		"inst":   {"api", "tone"},
+		"tone":    {"api"},
+		"sample":  {"api", "tone"},
+		"pack":    {"api"},
+		"inst":    {"api", "tone"},
+		"pattern": {"api"},
 	}
 }
 
