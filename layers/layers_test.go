@@ -19,6 +19,7 @@ func calls() map[string][]string {
 		"pack":    {"api"},
 		"inst":    {"api", "tone"},
 		"pattern": {"api"},
+		"dialect": {"api", "pattern"},
 	}
 }
 
